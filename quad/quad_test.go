@@ -1,25 +1,21 @@
 package quad
 
 import (
-	"bytes"
 	"math"
 	"testing"
 
 	"syndic/api"
+	"syndic/probe"
 )
 
-// roomy answers a slice with the bytes of text whose spare room is filled with 0xEE, and the whole of its memory.
+// roomy answers the bytes of text with spare room behind them, and the whole of that memory.
 func roomy(text string, spare int) (b, whole []byte) {
-	whole = append([]byte(text), bytes.Repeat([]byte{0xEE}, spare)...)
-	return whole[:len(text)], whole
+	return probe.Roomy([]byte(text), spare, 0xEE)
 }
 
 // scribble overwrites a slice and its spare room.
 func scribble(b []byte) {
-	b = b[:cap(b)]
-	for i := range b {
-		b[i] = 0x5A
-	}
+	probe.Scribble(b, 0x5A)
 }
 
 // expect holds a reader's three readings against what they are to be.
