@@ -24,17 +24,6 @@ func slowSum(b []byte) int {
 	return 65535 - sum
 }
 
-// mixed answers n bytes that follow each other without a plain rule, other ones for each seed.
-func mixed(n, seed int) []byte {
-	b := make([]byte, n)
-	x := uint32(seed)*2654435761 + 1
-	for i := range b {
-		x = x*1664525 + 1013904223
-		b[i] = byte(x >> 24)
-	}
-	return b
-}
-
 // filled answers b with its sum at a place, and ends the test if there is none.
 func filled(t *testing.T, b []byte, at int) []byte {
 	t.Helper()
@@ -91,7 +80,7 @@ func TestOfNothing(t *testing.T) {
 // P2.1: Of holds against the chapter's words number by number, at all short lengths and at sums beyond 32 bits.
 func TestOfAsTold(t *testing.T) {
 	for n := range 300 {
-		if b := mixed(n, n); Of(b) != slowSum(b) {
+		if b := probe.Mixed(n, n); Of(b) != slowSum(b) {
 			t.Errorf("%d bytes: %04x, want %04x", n, Of(b), slowSum(b))
 		}
 	}
@@ -106,7 +95,7 @@ func TestOfAsTold(t *testing.T) {
 
 // P2.1: wherever bytes are cut, odd pieces and empty ones too, they have the sum of the whole.
 func TestOfPieces(t *testing.T) {
-	b := mixed(23, 5)
+	b := probe.Mixed(23, 5)
 	want := slowSum(b)
 	for i := range len(b) + 1 {
 		for j := i; j <= len(b); j++ {
@@ -191,7 +180,7 @@ func TestFill(t *testing.T) {
 	}
 	for n := 2; n <= 64; n += 2 {
 		for at := 0; at < n; at += 2 {
-			b := mixed(n, n+at)
+			b := probe.Mixed(n, n+at)
 			got := filled(t, b, at)
 			if !Good(got) {
 				t.Errorf("Fill(%x, %d) = %x isn't good", b, at, got)
@@ -243,8 +232,8 @@ func TestOneByteChanged(t *testing.T) {
 		filled(t, make([]byte, 2), 0),
 		filled(t, make([]byte, 8), 4),
 		filled(t, bytes.Repeat([]byte{0xff}, 8), 2),
-		filled(t, mixed(24, 1), 12),
-		filled(t, mixed(66, 2), 64),
+		filled(t, probe.Mixed(24, 1), 12),
+		filled(t, probe.Mixed(66, 2), 64),
 	} {
 		if !Good(b) {
 			t.Fatalf("%x isn't good", b)
@@ -304,7 +293,7 @@ func TestFillKeepsItsHandsOff(t *testing.T) {
 
 // R5: the same is answered again, whatever was asked in between.
 func TestSameAgain(t *testing.T) {
-	b := mixed(17, 9)
+	b := probe.Mixed(17, 9)
 	first := Of(b)
 	Of(b[:3], nil)
 	Good(b)
