@@ -699,18 +699,10 @@ func TestSame(t *testing.T) {
 	}
 }
 
-// roomyLsa answers a description whose lists have spare room, and the whole of their memory.
-func roomyLsa(l api.Lsa) (out api.Lsa, links []api.Link, members []int) {
-	out.Head = l.Head
-	out.Links, links = probe.Roomy(l.Links, 6, api.Link{Kind: 2, Id: 9, Data: 9, Cost: 9})
-	out.Members, members = probe.Roomy(l.Members, 6, 13)
-	return out, links, members
-}
-
 // R4: what is handed in stays as it was, spare room included, of what is right and what isn't.
 func TestHandsOffDescriptions(t *testing.T) {
 	for _, l := range []api.Lsa{router(0), router(2), network(1, 5), router(5), network(), edit(router(2), func(l *api.Lsa) { l.Members = []int{4, 2} })} {
-		given, links, members := roomyLsa(l)
+		given, links, members := probe.RoomyLsa(l)
 		wasLinks, wasMembers := slices.Clone(links), slices.Clone(members)
 		Right(given)
 		b, _ := Put(given)
@@ -718,8 +710,7 @@ func TestHandsOffDescriptions(t *testing.T) {
 		Same(given, sealed)
 		PutHead(given.Head)
 		probe.Scribble(b, 0x5A)
-		probe.Scribble(sealed.Links, api.Link{Cost: -1})
-		probe.Scribble(sealed.Members, -1)
+		probe.ScribbleLsa(sealed)
 		_ = append(sealed.Links, api.Link{Cost: -2})
 		_ = append(sealed.Members, -2)
 		if !slices.Equal(links, wasLinks) || !slices.Equal(members, wasMembers) {
@@ -731,12 +722,11 @@ func TestHandsOffDescriptions(t *testing.T) {
 // R4: a sealed description is memory of its own, whether it is right or not.
 func TestSealIsNewMemory(t *testing.T) {
 	for _, l := range []api.Lsa{router(3), network(1, 5), router(6), network(5, 1), edit(router(2), func(l *api.Lsa) { l.Members = []int{4, 2} })} {
-		given, links, members := roomyLsa(l)
+		given, links, members := probe.RoomyLsa(l)
 		first, second := Seal(given), Seal(given)
-		probe.Scribble(links, api.Link{Cost: -1})
-		probe.Scribble(members, -1)
-		probe.Scribble(first.Links, api.Link{Cost: -2})
-		probe.Scribble(first.Members, -2)
+		probe.Scribble(links, api.Link{Cost: -2})
+		probe.Scribble(members, -2)
+		probe.ScribbleLsa(first)
 		if !slices.Equal(second.Links, l.Links) || !slices.Equal(second.Members, l.Members) {
 			t.Errorf("the seal of %v shares memory: %v", l, second)
 		}
@@ -754,8 +744,7 @@ func TestGetKeepsItsHandsOff(t *testing.T) {
 		if err != api.OK || again != api.OK || string(all) != was {
 			t.Fatalf("Get: %v, %v, bytes %x", err, again, all)
 		}
-		probe.Scribble(first.Links, api.Link{Cost: -1})
-		probe.Scribble(first.Members, -1)
+		probe.ScribbleLsa(first)
 		probe.Scribble(all, 0x5A)
 		if !Same(second, Seal(l)) || head != second.Head {
 			t.Errorf("what is got shares memory: %v, want %v", second, Seal(l))

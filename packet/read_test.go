@@ -507,8 +507,7 @@ func TestGetKeepsItsHandsOff(t *testing.T) {
 		probe.Scribble(one.Wants, api.Key{Id: -1})
 		probe.Scribble(one.Acks, api.Head{Age: -2})
 		for _, l := range one.Lsas {
-			probe.Scribble(l.Links, api.Link{Cost: -1})
-			probe.Scribble(l.Members, -1)
+			probe.ScribbleLsa(l)
 		}
 		probe.Scribble(one.Lsas, api.Lsa{})
 		probe.Scribble(all, 0x5A)
