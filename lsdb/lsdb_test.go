@@ -140,23 +140,6 @@ func ticks(t *testing.T, d *Db, want ...api.Key) {
 	}
 }
 
-// turns calls f with each order in which items may stand.
-func turns[T any](items []T, f func([]T)) {
-	var from func(at int)
-	from = func(at int) {
-		if at == len(items) {
-			f(items)
-			return
-		}
-		for i := at; i < len(items); i++ {
-			items[at], items[i] = items[i], items[at]
-			from(at + 1)
-			items[at], items[i] = items[i], items[at]
-		}
-	}
-	from(0)
-}
-
 // P7.1: a database of nothing, of whatever room.
 func TestNewHasNothing(t *testing.T) {
 	for room := range rooms() {
@@ -376,7 +359,7 @@ func TestTickInOrder(t *testing.T) {
 		keys = append(keys, key(l))
 	}
 	young, old := network(9, 3, 58, 1), router(3, 60, 2)
-	turns(slices.Clone(want), func(list []api.Lsa) {
+	probe.Turns(slices.Clone(want), func(list []api.Lsa) {
 		d := filled(t, 40, list[:3]...)
 		put(t, d, young, old)
 		put(t, d, list[3:]...)
@@ -416,7 +399,7 @@ func TestTickOfChanges(t *testing.T) {
 // P7.1: All is in the order of Kind, then Id, then Adv, as numbers, whatever the order of Puts.
 func TestAllInOrder(t *testing.T) {
 	want := []api.Lsa{router(2, 0, 1), router(10, 9, 2), router(15, 4, 0), network(0, 15, 2, 3), network(2, 14, 7, 1), network(10, 2, 1, 1, 2), network(10, 11, 1, 1)}
-	turns(slices.Clone(want), func(list []api.Lsa) { holds(t, filled(t, 7, list...), want...) })
+	probe.Turns(slices.Clone(want), func(list []api.Lsa) { holds(t, filled(t, 7, list...), want...) })
 	full := many(40)
 	for step := 1; step < 40; step += 2 {
 		if step%5 == 0 {

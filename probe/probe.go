@@ -1,4 +1,4 @@
-// Package probe is for the tests alone: lists by which a test sees whether a call writes to memory that isn't its own, or hands out memory that it needs, and bytes to try calls on.
+// Package probe is for the tests alone: lists by which a test sees whether a call writes to memory that isn't its own, or hands out memory that it needs, orders in which items may stand, and bytes to try calls on.
 package probe
 
 import "syndic/api"
@@ -33,6 +33,23 @@ func RoomyLsa(l api.Lsa) (out api.Lsa, links []api.Link, members []int) {
 func ScribbleLsa(l api.Lsa) {
 	Scribble(l.Links, api.Link{Cost: -1})
 	Scribble(l.Members, -1)
+}
+
+// Turns calls f with each order in which items may stand.
+func Turns[T any](items []T, f func([]T)) {
+	var from func(at int)
+	from = func(at int) {
+		if at == len(items) {
+			f(items)
+			return
+		}
+		for i := at; i < len(items); i++ {
+			items[at], items[i] = items[i], items[at]
+			from(at + 1)
+			items[at], items[i] = items[i], items[at]
+		}
+	}
+	from(0)
 }
 
 // Mixed answers n bytes that follow each other without a plain rule, always the same ones for the same seed.
