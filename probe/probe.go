@@ -1,7 +1,11 @@
-// Package probe is for the tests alone: lists by which a test sees whether a call writes to memory that isn't its own, or hands out memory that it needs, orders in which items may stand, and bytes to try calls on.
+// Package probe is for the tests alone: lists by which a test sees whether a call writes to memory that isn't its own, or hands out memory that it needs, orders in which items may stand, and bytes and descriptions to try calls on.
 package probe
 
-import "syndic/api"
+import (
+	"slices"
+
+	"syndic/api"
+)
 
 // Roomy answers the items as a list with so much spare room, filled with mark, and the whole of that list's memory.
 func Roomy[T any](items []T, spare int, mark T) (list, whole []T) {
@@ -29,6 +33,29 @@ func RoomyLsa(l api.Lsa) (out api.Lsa, links []api.Link, members []int) {
 	return out, links, members
 }
 
+// RoomyLsas answers descriptions with lists of their own, all with spare room, that of the descriptions filled with mark, the whole of their memory, and a call that tells whether all of it is as it was.
+func RoomyLsas(l []api.Lsa, spare int, mark api.Lsa) (list, whole []api.Lsa, held func() bool) {
+	var fresh []api.Lsa
+	var links [][]api.Link
+	var members [][]int
+	for i, x := range l {
+		x.Links = []api.Link{{Kind: api.Stub, Id: i, Data: i, Cost: 1}}
+		x.Members = []int{i, i + 1}
+		x, link, member := RoomyLsa(x)
+		fresh, links, members = append(fresh, x), append(links, link), append(members, member)
+	}
+	list, whole = Roomy(fresh, spare, mark)
+	was, wasLinks, wasMembers := slices.Clone(whole), slices.Concat(links...), slices.Concat(members...)
+	return list, whole, func() bool {
+		return slices.EqualFunc(whole, was, same) && slices.Equal(slices.Concat(links...), wasLinks) && slices.Equal(slices.Concat(members...), wasMembers)
+	}
+}
+
+// same tells whether two descriptions have the same head and the same lists.
+func same(a, b api.Lsa) bool {
+	return a.Head == b.Head && slices.Equal(a.Links, b.Links) && slices.Equal(a.Members, b.Members)
+}
+
 // ScribbleLsa writes all over a description's lists, their spare room included.
 func ScribbleLsa(l api.Lsa) {
 	Scribble(l.Links, api.Link{Cost: -1})
@@ -50,6 +77,48 @@ func Turns[T any](items []T, f func([]T)) {
 		}
 	}
 	from(0)
+}
+
+// Strewn answers items in an order without a plain rule, another one for each seed.
+func Strewn[T any](l []T, seed int) []T {
+	l = slices.Clone(l)
+	m := Mixed(2*len(l), seed)
+	for i := range l {
+		j := (int(m[2*i])<<8 | int(m[2*i+1])) % (i + 1)
+		l[i], l[j] = l[j], l[i]
+	}
+	return l
+}
+
+// Rising answers n descriptions of keys of their own, in order, none of age 60, each field of whose heads differs from the others'.
+func Rising(n int) []api.Lsa {
+	var l []api.Lsa
+	for i := range n {
+		h := api.Head{Age: i % 60, Kind: 1 + i/40, Id: i / 4, Adv: i % 4, Seq: 1000 - i, Sum: 2000 + i, Long: 3000 + i}
+		l = append(l, api.Lsa{Head: h})
+	}
+	return l
+}
+
+// HeadsOf answers descriptions' heads.
+func HeadsOf(l []api.Lsa) []api.Head {
+	var heads []api.Head
+	for _, x := range l {
+		heads = append(heads, x.Head)
+	}
+	return heads
+}
+
+// Triples answers the pieces that heads are told in, one without heads, if there are none.
+func Triples(heads []api.Head) [][]api.Head {
+	out := [][]api.Head{nil}
+	for i, h := range heads {
+		if i > 0 && i%3 == 0 {
+			out = append(out, nil)
+		}
+		out[len(out)-1] = append(out[len(out)-1], h)
+	}
+	return out
 }
 
 // Mixed answers n bytes that follow each other without a plain rule, always the same ones for the same seed.

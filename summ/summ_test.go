@@ -22,53 +22,11 @@ func ofNetwork(id, adv, seq, age int) api.Lsa {
 	return api.Lsa{Head: api.Head{Age: age, Kind: api.Network, Id: id, Adv: adv, Seq: seq}, Members: []int{1, 4}}
 }
 
-// rising answers n descriptions of keys of their own, in order, each field of whose heads differs from the others'.
-func rising(n int) []api.Lsa {
-	var l []api.Lsa
-	for i := range n {
-		h := api.Head{Age: i % 60, Kind: 1 + i/40, Id: i / 4, Adv: i % 4, Seq: 1000 - i, Sum: 2000 + i, Long: 3000 + i}
-		l = append(l, api.Lsa{Head: h})
-	}
-	return l
-}
-
-// strewn answers items in an order without a plain rule, another one for each seed.
-func strewn[T any](l []T, seed int) []T {
-	l = slices.Clone(l)
-	m := probe.Mixed(2*len(l), seed)
-	for i := range l {
-		j := (int(m[2*i])<<8 | int(m[2*i+1])) % (i + 1)
-		l[i], l[j] = l[j], l[i]
-	}
-	return l
-}
-
-// headsOf answers descriptions' heads.
-func headsOf(l []api.Lsa) []api.Head {
-	var heads []api.Head
-	for _, x := range l {
-		heads = append(heads, x.Head)
-	}
-	return heads
-}
-
 // keysOf answers descriptions' keys.
 func keysOf(l []api.Lsa) []api.Key {
 	var out []api.Key
 	for _, x := range l {
 		out = append(out, api.KeyOf(x.Head))
-	}
-	return out
-}
-
-// triples answers the pieces that heads are told in, one without heads, if there are none.
-func triples(heads []api.Head) [][]api.Head {
-	out := [][]api.Head{nil}
-	for i, h := range heads {
-		if i > 0 && i%3 == 0 {
-			out = append(out, nil)
-		}
-		out[len(out)-1] = append(out[len(out)-1], h)
 	}
 	return out
 }
@@ -100,7 +58,7 @@ func tells(t *testing.T, name string, s *Summ, want []api.Head) {
 	if s == nil {
 		t.Fatalf("%s: New answers nil", name)
 	}
-	pieces := triples(want)
+	pieces := probe.Triples(want)
 	for i, piece := range pieces {
 		more := i+1 < len(pieces)
 		isAt(t, name, s, piece, more)
@@ -164,13 +122,13 @@ func TestChapterExample(t *testing.T) {
 // P13.1: any number of descriptions, in whatever order, is told by threes in the order of keys, the last piece of what is left.
 func TestPieces(t *testing.T) {
 	for n := range 8 {
-		probe.Turns(rising(n), func(l []api.Lsa) { tells(t, "few", New(l...), headsOf(rising(n))) })
+		probe.Turns(probe.Rising(n), func(l []api.Lsa) { tells(t, "few", New(l...), probe.HeadsOf(probe.Rising(n))) })
 	}
 	for _, n := range []int{8, 9, 10, 11, 12, 13, 39, 40, 41, 120, 1000} {
-		want := headsOf(rising(n))
-		tells(t, "in order", New(rising(n)...), want)
+		want := probe.HeadsOf(probe.Rising(n))
+		tells(t, "in order", New(probe.Rising(n)...), want)
 		for seed := range 10 {
-			tells(t, "strewn", New(strewn(rising(n), seed)...), want)
+			tells(t, "strewn", New(probe.Strewn(probe.Rising(n), seed)...), want)
 		}
 	}
 }
@@ -195,7 +153,7 @@ func TestOrderOfKeys(t *testing.T) {
 		l = append(l, api.Lsa{Head: h})
 	}
 	for seed := range 60 {
-		tells(t, "keys", New(strewn(l, seed)...), want)
+		tells(t, "keys", New(probe.Strewn(l, seed)...), want)
 	}
 }
 
@@ -203,7 +161,7 @@ func TestOrderOfKeys(t *testing.T) {
 func TestOfOneKey(t *testing.T) {
 	a, b, c, other := ofRouter(5, 7, 3), ofRouter(5, 9, 50), ofRouter(5, 8, 0), ofRouter(4, 1, 1)
 	probe.Turns([]api.Lsa{a, b, c, a}, func(l []api.Lsa) {
-		want := headsOf(l)
+		want := probe.HeadsOf(l)
 		tells(t, "of one key alone", New(l...), want)
 		for at := range len(l) + 1 {
 			tells(t, "and another one", New(slices.Insert(slices.Clone(l), at, other)...), append([]api.Head{other.Head}, want...))
@@ -230,10 +188,10 @@ func TestOfOneKey(t *testing.T) {
 func TestAges(t *testing.T) {
 	for _, age := range []int{math.MinInt64, -60, -1, 0, 1, 30, 58, 59, 61, 62, 120, 60 + 256, 60 + 1<<32, 3600, math.MaxInt64} {
 		l := []api.Lsa{ofRouter(1, 2, age)}
-		tells(t, "alone", New(l...), headsOf(l))
+		tells(t, "alone", New(l...), probe.HeadsOf(l))
 		l = append(l, ofRouter(3, 2, age))
-		tells(t, "around one of age 60", New(l[1], ofRouter(2, 2, 60), l[0]), headsOf(l))
-		tells(t, "behind one of its own key of age 60", New(ofRouter(3, 9, 60), l[0], l[1], ofRouter(1, 1, 60)), headsOf(l))
+		tells(t, "around one of age 60", New(l[1], ofRouter(2, 2, 60), l[0]), probe.HeadsOf(l))
+		tells(t, "behind one of its own key of age 60", New(ofRouter(3, 9, 60), l[0], l[1], ofRouter(1, 1, 60)), probe.HeadsOf(l))
 	}
 }
 
@@ -241,7 +199,7 @@ func TestAges(t *testing.T) {
 func TestSomeOfAge60(t *testing.T) {
 	for n := range 9 {
 		for which := range 1 << n {
-			l := rising(n)
+			l := probe.Rising(n)
 			var want []api.Head
 			for i := range l {
 				if which>>i&1 == 1 {
@@ -287,11 +245,11 @@ func TestNilSumm(t *testing.T) {
 // P13.1: Step goes on though nothing else was asked, as many pieces as there are.
 func TestStepsAlone(t *testing.T) {
 	for n := range 50 {
-		s := New(strewn(rising(n), n)...)
+		s := New(probe.Strewn(probe.Rising(n), n)...)
 		for range max(0, (n-1)/3) {
 			steps(t, "alone", s, true)
 		}
-		isAt(t, "the last one", s, triples(headsOf(rising(n)))[max(0, (n-1)/3)], false)
+		isAt(t, "the last one", s, probe.Triples(probe.HeadsOf(probe.Rising(n)))[max(0, (n-1)/3)], false)
 		for range 5 {
 			steps(t, "alone, at the end", s, false)
 		}
@@ -391,7 +349,7 @@ func TestLacksInOrder(t *testing.T) {
 	}
 	d := databaseOf(t, l[0], ofRouter(2, 9, 0), ofRouter(3, 11, 0), l[4], ofRouter(6, 8, 60))
 	lacked := func(h api.Head) bool { return h.Id == 2 || h.Id == 4 || h.Id == 6 || h.Id == 7 }
-	heads := headsOf(l)
+	heads := probe.HeadsOf(l)
 	probe.Turns(heads, func(heads []api.Head) {
 		var want []api.Head
 		for _, h := range heads {
@@ -523,7 +481,7 @@ func someOf(n, seed int) []api.Lsa {
 func TestLacksMixed(t *testing.T) {
 	for seed := range 400 {
 		d := databaseOf(t, someOf(seed%12, 2*seed)...)
-		heads := headsOf(someOf(seed%40, 2*seed+1))
+		heads := probe.HeadsOf(someOf(seed%40, 2*seed+1))
 		lackHeads(t, "mixed", d, heads, lacked(d, heads)...)
 		lackHeads(t, "mixed, of a nil one", nil, heads, lacked(nil, heads)...)
 		if t.Failed() {
@@ -536,7 +494,7 @@ func TestLacksMixed(t *testing.T) {
 func TestLacksNoMore(t *testing.T) {
 	for seed := range 400 {
 		d, e := databaseOf(t, someOf(seed%20, 2*seed)...), databaseOf(t, someOf(seed/20, 2*seed+1)...)
-		all := headsOf(e.All())
+		all := probe.HeadsOf(e.All())
 		var told []api.Head
 		for s, on := New(e.All()...), true; on; on = s.Step() {
 			told = append(told, s.Piece()...)
@@ -552,7 +510,7 @@ func TestLacksNoMore(t *testing.T) {
 				}
 			}
 			lackHeads(t, "of the other one", d, heads)
-			lackHeads(t, "of its own", d, headsOf(d.All()))
+			lackHeads(t, "of its own", d, probe.HeadsOf(d.All()))
 		}
 		if t.Failed() {
 			t.Fatalf("seed %d", seed)
@@ -579,13 +537,13 @@ func TestGoneInOrder(t *testing.T) {
 	l := []api.Lsa{ofRouter(2, 9, 60), ofRouter(10, 8, 60), ofNetwork(3, 2, 7, 60), ofNetwork(3, 10, 6, 60), ofRouter(10, 5, 60), ofRouter(1, 4, 59), ofNetwork(3, 2, 3, 60)}
 	probe.Turns(l, func(l []api.Lsa) { areGone(t, "in order", l, want...) })
 	for _, n := range []int{13, 40, 300} {
-		many := rising(n)
+		many := probe.Rising(n)
 		for i := range many {
 			many[i].Head.Age = 60
 		}
 		for seed := range 10 {
-			areGone(t, "many", strewn(many, seed), keysOf(many)...)
-			areGone(t, "many, each twice", strewn(append(rising(n), append(many, many...)...), seed), keysOf(many)...)
+			areGone(t, "many", probe.Strewn(many, seed), keysOf(many)...)
+			areGone(t, "many, each twice", probe.Strewn(append(probe.Rising(n), append(many, many...)...), seed), keysOf(many)...)
 		}
 	}
 	ends := []api.Key{
@@ -597,7 +555,7 @@ func TestGoneInOrder(t *testing.T) {
 		far = append(far, api.Lsa{Head: api.Head{Age: 60, Kind: k.Kind, Id: k.Id, Adv: k.Adv}})
 	}
 	for seed := range 30 {
-		areGone(t, "far apart", strewn(far, seed), ends...)
+		areGone(t, "far apart", probe.Strewn(far, seed), ends...)
 	}
 }
 
@@ -607,56 +565,39 @@ func TestToldOrGone(t *testing.T) {
 		l := databaseOf(t, someOf(20, seed)...).All()
 		old := func(x api.Lsa) bool { return x.Head.Age == 60 }
 		young := func(x api.Lsa) bool { return !old(x) }
-		tells(t, "told", New(strewn(l, seed)...), headsOf(slices.DeleteFunc(slices.Clone(l), old)))
-		areGone(t, "gone", strewn(l, seed), keysOf(slices.DeleteFunc(slices.Clone(l), young))...)
-	}
-}
-
-// roomyLsas answers descriptions as a list with spare room, whose own lists have spare room too, and a call that holds that all of it is as it was.
-func roomyLsas(t *testing.T, l []api.Lsa) (list, whole []api.Lsa, held func(string)) {
-	var links [][]api.Link
-	var members [][]int
-	var fresh []api.Lsa
-	for i, x := range l {
-		x.Links = []api.Link{{Kind: 3, Id: i, Data: i, Cost: 1}}
-		x.Members = []int{i, i + 1}
-		x, link, member := probe.RoomyLsa(x)
-		fresh, links, members = append(fresh, x), append(links, link), append(members, member)
-	}
-	list, whole = probe.Roomy(fresh, 5, ofRouter(13, 13, 60))
-	was, wasLinks, wasMembers := slices.Clone(whole), slices.Concat(links...), slices.Concat(members...)
-	return list, whole, func(name string) {
-		t.Helper()
-		if !sameAll(whole, was) || !slices.Equal(slices.Concat(links...), wasLinks) || !slices.Equal(slices.Concat(members...), wasMembers) {
-			t.Errorf("%s changed what was handed in", name)
-		}
+		tells(t, "told", New(probe.Strewn(l, seed)...), probe.HeadsOf(slices.DeleteFunc(slices.Clone(l), old)))
+		areGone(t, "gone", probe.Strewn(l, seed), keysOf(slices.DeleteFunc(slices.Clone(l), young))...)
 	}
 }
 
 // R4: descriptions that are handed in stay as they were, spare room included, and aren't kept.
 func TestDescriptionsStay(t *testing.T) {
 	for n := range 14 {
-		l := rising(n)
+		l := probe.Rising(n)
 		for i := range l {
 			if i%3 == 1 {
 				l[i].Head.Age = 60
 			}
 		}
-		want := headsOf(slices.DeleteFunc(slices.Clone(l), func(x api.Lsa) bool { return x.Head.Age == 60 }))
+		want := probe.HeadsOf(slices.DeleteFunc(slices.Clone(l), func(x api.Lsa) bool { return x.Head.Age == 60 }))
 		slices.Reverse(l)
-		list, whole, held := roomyLsas(t, l)
+		list, whole, held := probe.RoomyLsas(l, 5, ofRouter(13, 13, 60))
 		s, u, keys := New(list...), New(list...), Gone(list...)
-		held("New or Gone")
+		if !held() {
+			t.Error("New or Gone changed what was handed in")
+		}
 		u.Step()
 		tells(t, "as they came", New(list...), want)
-		held("a summary that was walked")
+		if !held() {
+			t.Error("a summary that was walked changed what was handed in")
+		}
 		probe.Scribble(whole, ofRouter(9, 9, 9))
 		tells(t, "scribbled behind New", s, want)
 		for range max(0, (len(want)-1)/3-1) {
 			u.Step()
 		}
 		if len(want) > 3 {
-			isAt(t, "scribbled behind Step", u, triples(want)[(len(want)-1)/3], false)
+			isAt(t, "scribbled behind Step", u, probe.Triples(want)[(len(want)-1)/3], false)
 		}
 		if !slices.Equal(keys, Gone(l...)) {
 			t.Errorf("scribbled behind Gone: %v", keys)
@@ -668,12 +609,12 @@ func TestDescriptionsStay(t *testing.T) {
 func TestPiecesAreNew(t *testing.T) {
 	mark := api.Head{Age: -1, Seq: -1}
 	for n := range 14 {
-		want := headsOf(rising(n))
-		s := New(rising(n)...)
-		for i, piece := range triples(want) {
+		want := probe.HeadsOf(probe.Rising(n))
+		s := New(probe.Rising(n)...)
+		for i, piece := range probe.Triples(want) {
 			kept, again := s.Piece(), s.Piece()
 			probe.Scribble(s.Piece(), mark)
-			isAt(t, "scribbled", s, piece, i+1 < len(triples(want)))
+			isAt(t, "scribbled", s, piece, i+1 < len(probe.Triples(want)))
 			probe.Scribble(again, mark)
 			if !slices.Equal(kept, piece) {
 				t.Errorf("two pieces share memory: %v", kept)
@@ -693,7 +634,7 @@ func TestLackedIsNew(t *testing.T) {
 	mark := api.Head{Age: -1, Seq: -1}
 	for seed := range 40 {
 		d := databaseOf(t, someOf(seed%6, 3*seed)...)
-		heads, whole := probe.Roomy(headsOf(someOf(seed%20, 3*seed+1)), 6, ofRouter(13, 99, 0).Head)
+		heads, whole := probe.Roomy(probe.HeadsOf(someOf(seed%20, 3*seed+1)), 6, ofRouter(13, 99, 0).Head)
 		was, wasAll := slices.Clone(whole), d.All()
 		want := lacked(d, heads)
 		got, again := Lacks(d, heads...), Lacks(d, heads...)
@@ -715,7 +656,7 @@ func TestLackedIsNew(t *testing.T) {
 // R4: the keys that Gone answers are nobody else's, spare room included.
 func TestGoneIsNew(t *testing.T) {
 	for n := range 20 {
-		l := rising(n)
+		l := probe.Rising(n)
 		for i := range l {
 			l[i].Head.Age = 60
 		}
@@ -732,9 +673,9 @@ func TestGoneIsNew(t *testing.T) {
 // R5: two summaries share nothing, of one list or of several, and are answered alike, whatever was asked of others between.
 func TestSummariesApart(t *testing.T) {
 	for n := range 14 {
-		l := strewn(rising(n), n)
-		want := triples(headsOf(rising(n)))
-		a, b, other := New(l...), New(l...), New(rising(20)[9:]...)
+		l := probe.Strewn(probe.Rising(n), n)
+		want := probe.Triples(probe.HeadsOf(probe.Rising(n)))
+		a, b, other := New(l...), New(l...), New(probe.Rising(20)[9:]...)
 		for i, piece := range want {
 			more := i+1 < len(want)
 			isAt(t, "one", a, piece, more)
@@ -748,6 +689,6 @@ func TestSummariesApart(t *testing.T) {
 		}
 		isAt(t, "one", a, nil, false)
 		isAt(t, "the other one", b, nil, false)
-		tells(t, "a third one", New(l...), headsOf(rising(n)))
+		tells(t, "a third one", New(l...), probe.HeadsOf(probe.Rising(n)))
 	}
 }
