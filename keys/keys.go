@@ -11,3 +11,8 @@ import (
 func Compare(a, b api.Key) int {
 	return cmp.Or(cmp.Compare(a.Kind, b.Kind), cmp.Compare(a.Id, b.Id), cmp.Compare(a.Adv, b.Adv))
 }
+
+// CompareHeads answers the same of two heads' keys.
+func CompareHeads(a, b api.Head) int {
+	return Compare(api.KeyOf(a), api.KeyOf(b))
+}

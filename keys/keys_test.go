@@ -46,3 +46,17 @@ func TestCompare(t *testing.T) {
 		}
 	}
 }
+
+// P7.1: heads are in the order of their keys, whatever else they have.
+func TestCompareHeads(t *testing.T) {
+	l := rising()
+	for i, a := range l {
+		for j, b := range l {
+			h := api.Head{Age: j, Kind: a.Kind, Id: a.Id, Adv: a.Adv, Seq: j, Sum: j, Long: j}
+			g := api.Head{Age: i, Kind: b.Kind, Id: b.Id, Adv: b.Adv, Seq: i, Sum: i, Long: i}
+			if got := CompareHeads(h, g); got != cmp.Compare(i, j) {
+				t.Errorf("CompareHeads(%v, %v) = %d, want %d", h, g, got, cmp.Compare(i, j))
+			}
+		}
+	}
+}

@@ -2,6 +2,7 @@
 package probe
 
 import (
+	"math"
 	"slices"
 
 	"syndic/api"
@@ -100,6 +101,23 @@ func Rising(n int) []api.Lsa {
 	return l
 }
 
+// Far answers heads of keys of their own, in order, whose numbers are far from each other's, none of age 60; what else they have goes the other way about.
+func Far() []api.Head {
+	return []api.Head{
+		{Kind: math.MinInt64, Id: math.MaxInt64, Adv: 9, Seq: 9},
+		{Kind: -1, Id: 3, Adv: 3, Seq: 8},
+		{Kind: 1, Id: math.MinInt64, Adv: math.MaxInt64, Seq: 7},
+		{Kind: 1, Id: 2, Adv: -2, Age: 59, Seq: 6},
+		{Kind: 1, Id: 2, Adv: 2, Age: 40, Seq: 5, Sum: 4},
+		{Kind: 1, Id: 2, Adv: 10, Age: 20, Seq: 4, Sum: 3, Long: 36},
+		{Kind: 1, Id: 10, Adv: 2, Seq: 3, Long: 24},
+		{Kind: 2, Id: 1, Adv: 15, Seq: 2},
+		{Kind: 2, Id: 3, Adv: 1, Seq: 1},
+		{Kind: 10, Id: 0, Adv: 0},
+		{Kind: math.MaxInt64, Id: math.MinInt64, Adv: math.MinInt64, Seq: -1},
+	}
+}
+
 // HeadsOf answers descriptions' heads.
 func HeadsOf(l []api.Lsa) []api.Head {
 	var heads []api.Head
@@ -107,6 +125,15 @@ func HeadsOf(l []api.Lsa) []api.Head {
 		heads = append(heads, x.Head)
 	}
 	return heads
+}
+
+// KeysOf answers heads' keys.
+func KeysOf(heads []api.Head) []api.Key {
+	var keys []api.Key
+	for _, h := range heads {
+		keys = append(keys, api.KeyOf(h))
+	}
+	return keys
 }
 
 // Triples answers the pieces that heads are told in, one without heads, if there are none.

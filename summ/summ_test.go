@@ -23,13 +23,7 @@ func ofNetwork(id, adv, seq, age int) api.Lsa {
 }
 
 // keysOf answers descriptions' keys.
-func keysOf(l []api.Lsa) []api.Key {
-	var out []api.Key
-	for _, x := range l {
-		out = append(out, api.KeyOf(x.Head))
-	}
-	return out
-}
+func keysOf(l []api.Lsa) []api.Key { return probe.KeysOf(probe.HeadsOf(l)) }
 
 // isAt holds that a summary is at this piece, and stays at it while it is asked.
 func isAt(t *testing.T, name string, s *Summ, want []api.Head, more bool) {
@@ -135,19 +129,7 @@ func TestPieces(t *testing.T) {
 
 // P13.1: keys are in the order of Kind, then Id, then Adv, as numbers; nothing else of a head bears on it.
 func TestOrderOfKeys(t *testing.T) {
-	want := []api.Head{
-		{Kind: math.MinInt64, Id: math.MaxInt64, Adv: 9, Seq: 9},
-		{Kind: -1, Id: 3, Adv: 3, Seq: 8},
-		{Kind: 1, Id: math.MinInt64, Adv: math.MaxInt64, Seq: 7},
-		{Kind: 1, Id: 2, Adv: -2, Age: 59, Seq: 6},
-		{Kind: 1, Id: 2, Adv: 2, Age: 40, Seq: 5, Sum: 4},
-		{Kind: 1, Id: 2, Adv: 10, Age: 20, Seq: 4, Sum: 3, Long: 36},
-		{Kind: 1, Id: 10, Adv: 2, Seq: 3, Long: 24},
-		{Kind: 2, Id: 1, Adv: 15, Seq: 2},
-		{Kind: 2, Id: 3, Adv: 1, Seq: 1},
-		{Kind: 10, Id: 0, Adv: 0},
-		{Kind: math.MaxInt64, Id: math.MinInt64, Adv: math.MinInt64, Seq: -1},
-	}
+	want := probe.Far()
 	var l []api.Lsa
 	for _, h := range want {
 		l = append(l, api.Lsa{Head: h})
