@@ -1,4 +1,4 @@
-// Package probe is for the tests alone: lists by which a test sees whether a call writes to memory that isn't its own, or hands out memory that it needs, orders in which items may stand, and bytes and descriptions to try calls on.
+// Package probe is for the tests alone: lists by which a test sees whether a call writes to memory that isn't its own, or hands out memory that it needs, orders in which items may stand, and bytes, keys and descriptions to try calls on.
 package probe
 
 import (
@@ -134,6 +134,15 @@ func KeysOf(heads []api.Head) []api.Key {
 		keys = append(keys, api.KeyOf(h))
 	}
 	return keys
+}
+
+// Apart answers keys that differ from one in one field alone.
+func Apart(k api.Key) []api.Key {
+	var out []api.Key
+	for _, by := range []int{-1, 1, 256, 1 << 32, math.MinInt64} {
+		out = append(out, api.Key{Kind: k.Kind + by, Id: k.Id, Adv: k.Adv}, api.Key{Kind: k.Kind, Id: k.Id + by, Adv: k.Adv}, api.Key{Kind: k.Kind, Id: k.Id, Adv: k.Adv + by})
+	}
+	return out
 }
 
 // Triples answers the pieces that heads are told in, one without heads, if there are none.

@@ -28,15 +28,6 @@ func headed(k api.Key) api.Head {
 	return api.Head{Age: 3, Kind: k.Kind, Id: k.Id, Adv: k.Adv, Seq: 4, Sum: 5, Long: 6}
 }
 
-// apart answers keys that differ from one in one field alone.
-func apart(k api.Key) []api.Key {
-	var out []api.Key
-	for _, by := range []int{-1, 1, 256, 1 << 32, math.MinInt64} {
-		out = append(out, api.Key{Kind: k.Kind + by, Id: k.Id, Adv: k.Adv}, api.Key{Kind: k.Kind, Id: k.Id + by, Adv: k.Adv}, api.Key{Kind: k.Kind, Id: k.Id, Adv: k.Adv + by})
-	}
-	return out
-}
-
 // wanted answers a list of which these are wanted.
 func wanted(heads ...api.Head) *Wants {
 	w := New()
@@ -191,16 +182,16 @@ func TestKeysApart(t *testing.T) {
 	k := api.Key{Kind: 2, Id: 5, Adv: 9}
 	h := headed(k)
 	w := wanted(h)
-	hasNot(t, "keys apart", w, apart(k)...)
-	for i, other := range apart(k) {
+	hasNot(t, "keys apart", w, probe.Apart(k)...)
+	for i, other := range probe.Apart(k) {
 		adds(t, "keys apart", w, 2+i, headed(other))
 		if got, is := w.Get(other); !is || got != headed(other) {
 			t.Errorf("Get(%v) = %v, %v", other, got, is)
 		}
 	}
-	for i, other := range apart(k) {
+	for i, other := range probe.Apart(k) {
 		takes(t, "keys apart", w, headed(other), api.OK)
-		if got := w.Len(); got != len(apart(k))-i {
+		if got := w.Len(); got != len(probe.Apart(k))-i {
 			t.Errorf("Len() = %d behind %d that were taken", got, i+1)
 		}
 	}
@@ -660,7 +651,7 @@ func TestAnswerKeysApart(t *testing.T) {
 	for _, l := range []api.Lsa{known(40)[4], known(40)[22]} {
 		d := knows(t, l)
 		k := api.KeyOf(l.Head)
-		for _, other := range apart(k) {
+		for _, other := range probe.Apart(k) {
 			hasNoAnswer(t, "apart", d, other)
 			hasNoAnswer(t, "apart, behind it", d, k, other)
 			hasNoAnswer(t, "apart, ahead of it", d, other, k)
